@@ -1,0 +1,1 @@
+"""Planes of finitely many points; the calls stand in finiteplanes.planes."""

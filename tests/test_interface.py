@@ -1,0 +1,97 @@
+"""What the interface says of every call: kinds, parameters, nothing changed, nothing kept, nothing printed."""
+
+import contextlib
+import inspect
+import io
+import unittest
+
+import finiteplanes.planes as planes
+from tests.helper import PRIMES, Untouched, check_numbers
+
+PARAMETERS = {
+    "normal": ["p", "v"],
+    "number": ["p", "v"],
+    "point": ["p", "i"],
+}
+
+
+def some_calls():
+    """Pairs of a call's name and what it's handed, from every prime, with every way a call can answer."""
+    calls = []
+    for p in PRIMES:
+        for v in [[0, 0, 0], [p - 1, 1, 0], [0, p - 1, 1], [0, 0, p - 1], [1, p - 1, p - 1]]:
+            calls.append(("normal", [p, v]))
+        for v in [[0, 0, 1], [0, 1, 0], [0, 1, p - 1], [1, 0, 0], [1, p - 1, 1]]:
+            calls.append(("number", [p, v]))
+        for i in [0, 1, p, p + 1, p * p + p, p * p + p + 1, 2147483647]:
+            calls.append(("point", [p, i]))
+    return calls
+
+
+def copied(handed):
+    return [list(a) if isinstance(a, list) else a for a in handed]
+
+
+def answer(name, handed):
+    return getattr(planes, name)(*handed)
+
+
+class InterfaceTest(unittest.TestCase):
+    def test_names_and_parameters(self):
+        for name in PARAMETERS:
+            signature = inspect.signature(getattr(planes, name))
+            self.assertEqual(list(signature.parameters), PARAMETERS[name])
+
+    def test_every_call_is_among_those_tried(self):
+        self.assertEqual({name for name, handed in some_calls()}, set(PARAMETERS))
+
+    def test_by_keyword(self):
+        self.assertEqual(planes.normal(p=5, v=[0, 2, 4]), [1, 0, 1, 2])
+        self.assertEqual(planes.number(p=5, v=[0, 1, 2]), [3])
+        self.assertEqual(planes.point(p=5, i=3), [1, 0, 1, 2])
+
+    def test_answers_are_lists_of_int(self):
+        for name, handed in some_calls():
+            check_numbers(self, answer(name, handed))
+
+    def test_what_is_handed_in_stays(self):
+        for name, handed in some_calls():
+            before = copied(handed)
+            answer(name, handed)
+            self.assertEqual(handed, before)
+
+    def test_what_is_handed_in_is_not_changed_for_a_while(self):
+        for name, handed in some_calls():
+            watched = [Untouched(a) if isinstance(a, list) else a for a in handed]
+            self.assertEqual(answer(name, watched), answer(name, handed))
+
+    def test_the_answer_is_a_list_of_its_own(self):
+        for name, handed in some_calls():
+            before = copied(handed)
+            first = answer(name, handed)
+            kept = list(first)
+            for k in range(len(first)):
+                first[k] = -7
+            first.append(-7)
+            self.assertEqual(handed, before)
+            self.assertEqual(answer(name, handed), kept)
+
+    def test_called_again_it_answers_the_same(self):
+        calls = some_calls()
+        first = [answer(name, handed) for name, handed in calls]
+        again = [answer(name, handed) for name, handed in calls]
+        backwards = [answer(name, handed) for name, handed in reversed(calls)]
+        self.assertEqual(again, first)
+        self.assertEqual(backwards[::-1], first)
+
+    def test_nothing_is_printed(self):
+        out = io.StringIO()
+        err = io.StringIO()
+        with contextlib.redirect_stdout(out), contextlib.redirect_stderr(err):
+            for name, handed in some_calls():
+                answer(name, handed)
+        self.assertEqual(out.getvalue() + err.getvalue(), "")
+
+
+if __name__ == "__main__":
+    unittest.main()
