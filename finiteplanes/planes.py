@@ -54,3 +54,30 @@ def point(p, i):
     if rest < p * p:
         return [1, 1, rest // p, rest % p]
     return [0]
+
+
+def cross(p, u, v):
+    """The cross of the rows u and v."""
+    return [(u[1] * v[2] - u[2] * v[1]) % p, (u[2] * v[0] - u[0] * v[2]) % p, (u[0] * v[1] - u[1] * v[0]) % p]
+
+
+def product_sum(p, u, v):
+    """The sum of u's numbers times v's."""
+    return (u[0] * v[0] + u[1] * v[1] + u[2] * v[2]) % p
+
+
+def join(p, u, v):
+    """1, then the line through the points u and v, or the point on the lines u and v; 0 if their cross is all 0."""
+    return normal(p, cross(p, u, v))
+
+
+def on(p, v, l):
+    """1 if v lies on l, else 0."""
+    if product_sum(p, v, l) == 0:
+        return [1]
+    return [0]
+
+
+def moved(p, m, v):
+    """1, then the one form of what the matrix m moves v to; 0 if that's all 0."""
+    return normal(p, [product_sum(p, m[0:3], v), product_sum(p, m[3:6], v), product_sum(p, m[6:9], v)])

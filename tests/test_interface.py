@@ -12,6 +12,9 @@ PARAMETERS = {
     "normal": ["p", "v"],
     "number": ["p", "v"],
     "point": ["p", "i"],
+    "join": ["p", "u", "v"],
+    "on": ["p", "v", "l"],
+    "moved": ["p", "m", "v"],
 }
 
 
@@ -25,6 +28,12 @@ def some_calls():
             calls.append(("number", [p, v]))
         for i in [0, 1, p, p + 1, p * p + p, p * p + p + 1, 2147483647]:
             calls.append(("point", [p, i]))
+        for u, v in [([1, 0, p - 1], [0, p - 1, 1]), ([1, 1, p - 1], [1, 1, p - 1]), ([0, 0, 0], [1, 0, 0])]:
+            calls.append(("join", [p, u, v]))
+        for v, l in [([1, 0, 1], [0, p - 1, 0]), ([1, 0, 0], [p - 1, 0, 1]), ([0, 0, 0], [0, 0, 1])]:
+            calls.append(("on", [p, v, l]))
+        for m, v in [([p - 1] * 9, [1, 0, 0]), ([0, 1, 0, 0, 0, 1, p - 1, 0, 0], [1, 1, 0]), ([1] * 9, [1, p - 1, 0])]:
+            calls.append(("moved", [p, m, v]))
     return calls
 
 
@@ -46,9 +55,9 @@ class InterfaceTest(unittest.TestCase):
         self.assertEqual({name for name, handed in some_calls()}, set(PARAMETERS))
 
     def test_by_keyword(self):
-        self.assertEqual(planes.normal(p=5, v=[0, 2, 4]), [1, 0, 1, 2])
-        self.assertEqual(planes.number(p=5, v=[0, 1, 2]), [3])
-        self.assertEqual(planes.point(p=5, i=3), [1, 0, 1, 2])
+        for name, handed in some_calls():
+            named = dict(zip(PARAMETERS[name], handed))
+            self.assertEqual(getattr(planes, name)(**named), answer(name, handed))
 
     def test_answers_are_lists_of_int(self):
         for name, handed in some_calls():
