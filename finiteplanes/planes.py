@@ -81,3 +81,121 @@ def on(p, v, l):
 def moved(p, m, v):
     """1, then the one form of what the matrix m moves v to; 0 if that's all 0."""
     return normal(p, [product_sum(p, m[0:3], v), product_sum(p, m[3:6], v), product_sum(p, m[6:9], v)])
+
+
+def determinant(p, u, v, w):
+    """The determinant of the rows u, v and w."""
+    return product_sum(p, u, cross(p, v, w))
+
+
+def rows_of_three(points):
+    """The points that stand one behind another, each as a row by itself."""
+    return [points[k:k + 3] for k in range(0, len(points), 3)]
+
+
+def all_different(rows):
+    """Whether no two of the rows are equal."""
+    for k in range(len(rows)):
+        if rows[k] in rows[:k]:
+            return False
+    return True
+
+
+def three_on_a_line(p, rows):
+    """Whether three of the points lie on a line."""
+    for k in range(len(rows)):
+        for j in range(k):
+            line = cross(p, rows[j], rows[k])
+            for i in range(j):
+                if product_sum(p, rows[i], line) == 0:
+                    return True
+    return False
+
+
+def is_arc(p, rows):
+    """Whether the points are different and no three of them lie on a line."""
+    return all_different(rows) and not three_on_a_line(p, rows)
+
+
+def sides(p, rows):
+    """The lines through two of the first three points; the k-th doesn't go through the k-th point."""
+    return [cross(p, rows[1], rows[2]), cross(p, rows[2], rows[0]), cross(p, rows[0], rows[1])]
+
+
+def shares(p, rows):
+    """How often each of the first three points goes into the fourth, up to one factor that all three have."""
+    return [product_sum(p, side, rows[3]) for side in sides(p, rows)]
+
+
+def taken(p, from_points, to_points):
+    """1, then the matrix, in its one form, that moves four points to four others; 0 if either four are no arc."""
+    start = rows_of_three(from_points)
+    goal = rows_of_three(to_points)
+    if not is_arc(p, start) or not is_arc(p, goal):
+        return [0]
+    start_sides = sides(p, start)
+    start_shares = shares(p, start)
+    goal_shares = shares(p, goal)
+    # Times a point of start, each side is 0 but at its own point: so whatever the factors, each of the first three
+    # points goes to its own. At the fourth the sides give start's shares, which the factors turn into goal's.
+    factors = [goal_shares[k] * inverse(p, start_shares[k]) % p for k in range(3)]
+    matrix = []
+    for i in range(3):
+        heights = [factors[k] * goal[k][i] for k in range(3)]
+        for j in range(3):
+            matrix.append(product_sum(p, heights, [side[j] for side in start_sides]))
+    return [1] + one_form(p, matrix)
+
+
+def first_point_off(p, line):
+    """The first point, in their order, that isn't on the line."""
+    i = 0
+    while product_sum(p, point(p, i)[1:], line) == 0:
+        i += 1
+    return point(p, i)[1:]
+
+
+def ratio(p, points):
+    """The double ratio of four different points on a line; -1 if they aren't such."""
+    rows = rows_of_three(points)
+    if not all_different(rows):
+        return [-1]
+    a = rows[0]
+    b = rows[1]
+    c = rows[2]
+    d = rows[3]
+    line = cross(p, a, b)
+    if product_sum(p, c, line) != 0 or product_sum(p, d, line) != 0:
+        return [-1]
+    o = first_point_off(p, line)
+    above = determinant(p, o, a, c) * determinant(p, o, b, d)
+    below = determinant(p, o, a, d) * determinant(p, o, b, c)
+    return [above * inverse(p, below) % p]
+
+
+def conic_sum(p, c, v):
+    """The sum of x x, x y, x z, y y, y z, z z, each times its number of the conic c; 0 if v lies on c."""
+    x = v[0]
+    y = v[1]
+    z = v[2]
+    return (c[0] * x * x + c[1] * x * y + c[2] * x * z + c[3] * y * y + c[4] * y * z + c[5] * z * z) % p
+
+
+def line_pair(p, u, v):
+    """The conic on which the points of the lines u and v lie, and no others."""
+    squares = [u[0] * v[0] % p, u[1] * v[1] % p, u[2] * v[2] % p]
+    mixed = [(u[0] * v[1] + u[1] * v[0]) % p, (u[0] * v[2] + u[2] * v[0]) % p, (u[1] * v[2] + u[2] * v[1]) % p]
+    return [squares[0], mixed[0], mixed[1], squares[1], mixed[2], squares[2]]
+
+
+def through(p, points):
+    """1, then the conic, in its one form, on which the five points lie; 0 if they are no arc."""
+    rows = rows_of_three(points)
+    if not is_arc(p, rows):
+        return [0]
+    # The first four points lie on both pairs of lines, so on each sum of their multiples: one holds the fifth too.
+    one = line_pair(p, cross(p, rows[0], rows[1]), cross(p, rows[2], rows[3]))
+    other = line_pair(p, cross(p, rows[0], rows[2]), cross(p, rows[1], rows[3]))
+    at_one = conic_sum(p, one, rows[4])
+    at_other = conic_sum(p, other, rows[4])
+    return [1] + one_form(p, [(at_other * one[k] - at_one * other[k]) % p for k in range(6)])

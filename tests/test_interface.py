@@ -15,6 +15,9 @@ PARAMETERS = {
     "join": ["p", "u", "v"],
     "on": ["p", "v", "l"],
     "moved": ["p", "m", "v"],
+    "taken": ["p", "from_points", "to_points"],
+    "ratio": ["p", "points"],
+    "through": ["p", "points"],
 }
 
 
@@ -34,6 +37,20 @@ def some_calls():
             calls.append(("on", [p, v, l]))
         for m, v in [([p - 1] * 9, [1, 0, 0]), ([0, 1, 0, 0, 0, 1, p - 1, 0, 0], [1, 1, 0]), ([1] * 9, [1, p - 1, 0])]:
             calls.append(("moved", [p, m, v]))
+        calls += calls_with_points(p)
+    return calls
+
+
+def calls_with_points(p):
+    """The same for those calls that are handed several points in one list."""
+    corners = [1, 0, 0, 0, 1, 0, 0, 0, 1, 1, 1, 1]
+    others = [0, 1, 0, 0, 0, 1, 1, 1, 1, 1, 0, 0]
+    calls = [("taken", [p, corners, others]), ("taken", [p, others, corners])]
+    calls += [("taken", [p, corners, others[:9] + [0, 1, 1]]), ("taken", [p, corners[:9] + [0, 0, 1], others])]
+    for d in [[1, p - 1, 0], [1, 0, 0], [0, 0, 1]]:
+        calls.append(("ratio", [p, [1, 0, 0, 0, 1, 0, 1, 1, 0] + d]))
+    for k in [3, 1]:
+        calls.append(("through", [p, [0, 0, 1, 1, 0, 0, 1, 1, 1, 1, 2 % p, 4 % p, 1, k % p, k * k % p]]))
     return calls
 
 
