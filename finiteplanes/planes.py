@@ -199,3 +199,26 @@ def through(p, points):
     at_one = conic_sum(p, one, rows[4])
     at_other = conic_sum(p, other, rows[4])
     return [1] + one_form(p, [(at_other * one[k] - at_one * other[k]) % p for k in range(6)])
+
+
+def all_points(p):
+    """Every point, in their order."""
+    return [point(p, i)[1:] for i in range(p * p + p + 1)]
+
+
+def count(p, c):
+    """How many points lie on the conic c."""
+    return [len([v for v in all_points(p) if conic_sum(p, c, v) == 0])]
+
+
+def polar(p, c, v):
+    """1, then the polar of v by the conic c: its tangent, if v lies on it; 0 if that's all 0."""
+    twice = [2 * a % p for a in c]
+    return moved(p, [twice[0], c[1], c[2], c[1], twice[3], c[4], c[2], c[4], twice[5]], v)
+
+
+def arc(p, n, points):
+    """1 if the n points are different and no three of them lie on a line, else 0."""
+    if is_arc(p, rows_of_three(points[:3 * n])):
+        return [1]
+    return [0]

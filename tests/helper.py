@@ -132,6 +132,11 @@ def conic_value(p, c, v):
     return sum(a * s * t for a, (s, t) in zip(c, pairs)) % p
 
 
+def conic_points(p):
+    """The p + 1 points for which y y is x z."""
+    return [[0, 0, 1]] + [[1, t, t * t % p] for t in range(p)]
+
+
 def flat(points):
     """The points one behind another, three numbers each."""
     return [a for v in points for a in v]

@@ -6,7 +6,7 @@ import io
 import unittest
 
 import finiteplanes.planes as planes
-from tests.helper import PRIMES, Untouched, check_numbers
+from tests.helper import PRIMES, Untouched, check_numbers, conic_points, flat
 
 PARAMETERS = {
     "normal": ["p", "v"],
@@ -18,6 +18,9 @@ PARAMETERS = {
     "taken": ["p", "from_points", "to_points"],
     "ratio": ["p", "points"],
     "through": ["p", "points"],
+    "count": ["p", "c"],
+    "polar": ["p", "c", "v"],
+    "arc": ["p", "n", "points"],
 }
 
 
@@ -37,6 +40,9 @@ def some_calls():
             calls.append(("on", [p, v, l]))
         for m, v in [([p - 1] * 9, [1, 0, 0]), ([0, 1, 0, 0, 0, 1, p - 1, 0, 0], [1, 1, 0]), ([1] * 9, [1, p - 1, 0])]:
             calls.append(("moved", [p, m, v]))
+        for c in [[0] * 6, [p - 1] * 6, [0, 0, 1, p - 1, 0, 0]]:
+            calls.append(("count", [p, c]))
+            calls.append(("polar", [p, c, [1, 1, 1]]))
         calls += calls_with_points(p)
     return calls
 
@@ -51,6 +57,8 @@ def calls_with_points(p):
         calls.append(("ratio", [p, [1, 0, 0, 0, 1, 0, 1, 1, 0] + d]))
     for k in [3, 1]:
         calls.append(("through", [p, [0, 0, 1, 1, 0, 0, 1, 1, 1, 1, 2 % p, 4 % p, 1, k % p, k * k % p]]))
+    for points in [[], [1, p - 1, 0], corners, corners + others, [0, 0, 1] * 64, flat(conic_points(p))]:
+        calls.append(("arc", [p, len(points) // 3, points]))
     return calls
 
 
