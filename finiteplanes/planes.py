@@ -222,3 +222,32 @@ def arc(p, n, points):
     if is_arc(p, rows_of_three(points[:3 * n])):
         return [1]
     return [0]
+
+
+def secants(p, rows):
+    """The lines through each two of the points."""
+    lines = []
+    for k in range(len(rows)):
+        for j in range(k):
+            lines.append(cross(p, rows[j], rows[k]))
+    return lines
+
+
+def can_be_put(p, v, rows, lines):
+    """Whether the point v is none of the points and on none of the lines."""
+    if v in rows:
+        return False
+    for line in lines:
+        if product_sum(p, v, line) == 0:
+            return False
+    return True
+
+
+def more(p, n, points):
+    """How many points there are that, put to the n points, leave them an arc."""
+    rows = rows_of_three(points[:3 * n])
+    # What is no arc doesn't become one by another point.
+    if not is_arc(p, rows):
+        return [0]
+    lines = secants(p, rows)
+    return [len([v for v in all_points(p) if can_be_put(p, v, rows, lines)])]

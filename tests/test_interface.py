@@ -3,6 +3,7 @@
 import contextlib
 import inspect
 import io
+import sys
 import unittest
 
 import finiteplanes.planes as planes
@@ -21,6 +22,7 @@ PARAMETERS = {
     "count": ["p", "c"],
     "polar": ["p", "c", "v"],
     "arc": ["p", "n", "points"],
+    "more": ["p", "n", "points"],
 }
 
 
@@ -59,6 +61,7 @@ def calls_with_points(p):
         calls.append(("through", [p, [0, 0, 1, 1, 0, 0, 1, 1, 1, 1, 2 % p, 4 % p, 1, k % p, k * k % p]]))
     for points in [[], [1, p - 1, 0], corners, corners + others, [0, 0, 1] * 64, flat(conic_points(p))]:
         calls.append(("arc", [p, len(points) // 3, points]))
+        calls.append(("more", [p, len(points) // 3, points]))
     return calls
 
 
@@ -70,11 +73,34 @@ def answer(name, handed):
     return getattr(planes, name)(*handed)
 
 
+def deepest(name, handed):
+    """How many calls of the program stand within one another at most."""
+    depth = 0
+    most = 0
+
+    def watch(frame, event, argument):
+        nonlocal depth, most
+        if frame.f_code.co_filename == planes.__file__ and event in ("call", "return"):
+            depth += 1 if event == "call" else -1
+            most = max(most, depth)
+
+    sys.setprofile(watch)
+    try:
+        answer(name, handed)
+    finally:
+        sys.setprofile(None)
+    return most
+
+
 class InterfaceTest(unittest.TestCase):
     def test_names_and_parameters(self):
+        self.assertEqual(len(PARAMETERS), 13)
         for name in PARAMETERS:
             signature = inspect.signature(getattr(planes, name))
             self.assertEqual(list(signature.parameters), PARAMETERS[name])
+            for parameter in signature.parameters.values():
+                self.assertEqual(parameter.kind, parameter.POSITIONAL_OR_KEYWORD)
+                self.assertIs(parameter.default, parameter.empty)
 
     def test_every_call_is_among_those_tried(self):
         self.assertEqual({name for name, handed in some_calls()}, set(PARAMETERS))
@@ -117,6 +143,30 @@ class InterfaceTest(unittest.TestCase):
         backwards = [answer(name, handed) for name, handed in reversed(calls)]
         self.assertEqual(again, first)
         self.assertEqual(backwards[::-1], first)
+
+    def test_a_call_between_two_equal_calls_changes_nothing(self):
+        for p in [3, 7]:
+            calls = [call for call in some_calls() if call[1][0] == p]
+            for name, handed in calls:
+                first = answer(name, handed)
+                for other, other_handed in calls:
+                    answer(other, other_handed)
+                    self.assertEqual(answer(name, handed), first, (name, handed, other, other_handed))
+
+    def test_the_same_call_in_another_plane_changes_nothing(self):
+        corners = [1, 0, 0, 0, 1, 0, 0, 0, 1, 1, 1, 1]
+        for name, rest in [("normal", [[0, 1, 1]]), ("number", [[1, 1, 0]]), ("point", [7]),
+                           ("join", [[1, 1, 0], [0, 1, 1]]), ("on", [[1, 1, 1], [1, 1, 1]]),
+                           ("moved", [[1] * 9, [1, 1, 0]]), ("taken", [corners, corners]), ("ratio", [corners]),
+                           ("through", [corners + [0, 1, 1]]), ("count", [[1] * 6]), ("polar", [[1] * 6, [1, 1, 0]]),
+                           ("arc", [4, corners]), ("more", [4, corners])]:
+            first = [answer(name, [p] + rest) for p in PRIMES]
+            self.assertEqual([answer(name, [p] + rest) for p in PRIMES[::-1]], first[::-1])
+
+    def test_calls_are_not_as_deep_as_the_input_is_long(self):
+        for name, handed in some_calls():
+            if handed[0] in (2, 11, 61):
+                self.assertIn(deepest(name, handed), range(1, 10), (name, handed))
 
     def test_nothing_is_printed(self):
         out = io.StringIO()
